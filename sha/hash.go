@@ -5,7 +5,7 @@ import (
 	"strongroom/octet"
 )
 
-// Hash takes a message piece by piece. It keeps no more of it than the bytes that do not fill a block yet.
+// Hash takes a message piece by piece. It keeps at most a block of it, since what fills blocks is mixed in at once.
 type Hash struct {
 	begin [8]uint32 // the words of a hash of nothing; in one that no function made they are noughts
 	words [8]uint32

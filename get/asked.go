@@ -4,12 +4,12 @@ import (
 	"bytes"
 
 	"strongroom/api"
+	"strongroom/candidates"
 )
 
-// asked is whoever can be asked as post's nets can: a net, or what is told of one.
+// asked is whoever can be asked as post's nets can, and counts its calls: a net, or what is told of one.
 type asked interface {
-	Servers() int
-	Ask(batch []api.Call) ([]api.Answer, api.Errno)
+	candidates.Net
 	Made() int
 }
 
